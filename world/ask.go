@@ -2,11 +2,11 @@ package world
 
 import "convoy/api"
 
-// asker is who asked as a caller: a client, by what it did at a place, and how it met what it asked for.
+// asker is who asked as a caller: a client, and how it met what it asked for.
 type asker struct {
-	client, place int
-	slot          int // into which it is to be told, or noSlot
-	how           int
+	client int
+	slot   int // into which it is to be told, or noSlot
+	how    int
 }
 
 // noSlot stands for the log, into which what is called for is told.
@@ -67,16 +67,16 @@ func (w *World) tell(caller, how int, o api.Outcome) {
 	m.waits = 0
 	if a.slot != noSlot {
 		got, _, _ := m.Take(a.slot)
-		m.Had(got)
+		m.has(got)
 	}
 	w.rouse(a.client)
 }
 
 // give lays what a caller is told into the client's log, or into its slot, if that is for this caller still.
 func (w *World) give(caller int, a asker, how int, o api.Outcome) {
-	m, got := w.clients[a.client], api.Got{Place: a.place, How: how, Outcome: o, At: w.Now()}
+	m, got := w.clients[a.client], api.Got{How: how, Outcome: o, At: w.Now()}
 	if a.slot == noSlot {
-		m.Had(got)
+		m.has(got)
 		return
 	}
 	m.Fill(a.slot, caller, got)

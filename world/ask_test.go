@@ -1,6 +1,8 @@
 package world_test
 
 import (
+	"fmt"
+	"strings"
 	"testing"
 
 	"convoy/api"
@@ -71,7 +73,7 @@ func TestCallWaits(t *testing.T) {
 	finish(t, w, 3)
 }
 
-// TestStart: who starts goes on, and what is told stands in the log when it is awaited: as it was told, with the start's place (23.3).
+// TestStart: who starts goes on, and what is told stands in the log when it is awaited: with the how and the tick of the telling, and the await's place (23.3).
 func TestStart(t *testing.T) {
 	w := play(t, plainly, "0:a sleep 3 add 7", "start 0:a 0; sleep 5; await 0; await 0")
 	turns(t, w, 1)
@@ -85,9 +87,22 @@ func TestStart(t *testing.T) {
 	turns(t, w, 1)
 	awake(t, w, 0)
 	turns(t, w, 1)
-	log(t, w, 0, "0 led v7 @3")
+	log(t, w, 0, "2 led v7 @3")
 	finish(t, w, 1)
-	log(t, w, 0, "0 led v7 @3", "3 none v0 @5")
+	log(t, w, 0, "2 led v7 @3", "3 none v0 @5")
+}
+
+// TestPlaceOfAwait: what was started is had by its await, at whatever place that is, be the slot pending or full then; how and tick are those of the telling (23.3).
+func TestPlaceOfAwait(t *testing.T) {
+	for _, between := range []string{"token 0; ", "sleep 1; "} {
+		for _, place := range []int{1, 2, 5, 6, 7, 254, 255} {
+			text := "start 0:a 3; " + strings.Repeat(between, place-1) + "await 3"
+			w := play(t, plainly, "0:a sleep 5 add 7", text, text)
+			w.Go(1 << 40)
+			log(t, w, 0, fmt.Sprintf("%d led v7 @5", place))
+			log(t, w, 1, fmt.Sprintf("%d joined v7 @5", place))
+		}
+	}
 }
 
 // TestStartAtOnce: what is told at once is in the slot, too (23.3).
@@ -96,7 +111,7 @@ func TestStartAtOnce(t *testing.T) {
 	w := play(t, config, "0:a add 7; 0:a gate 1", "call 0:a; cancel 2; start 0:a 1; token 2; start 0:a 2; token 0; sleep 6; start 0:a 3; start 0:b 15; await 1; await 2; await 3; await 15")
 	finish(t, w, 17)
 	since(t, w, 6, "0 join c1 n2 h1 v7 a", "0 join c1 n3 h6 f3:0:0 a", "6 begin r2 h1 a", "6 join c1 n4 h2 v7 a", "6 send r2", "6 join c1 n5 h4 f4:0:0 b")
-	log(t, w, 0, "0 led v7 @0", "2 hit v7 @0", "4 cancel f3:0:0 @0", "7 stale v7 @6", "8 busy f4:0:0 @6")
+	log(t, w, 0, "0 led v7 @0", "9 hit v7 @0", "10 cancel f3:0:0 @0", "11 stale v7 @6", "12 busy f4:0:0 @6")
 	free(t, w, 0, true)
 }
 
@@ -104,8 +119,8 @@ func TestStartAtOnce(t *testing.T) {
 func TestStartJoins(t *testing.T) {
 	w := play(t, plainly, "0:a gate 1 add 7", "start 0:a 0; start 0:a 1; await 1; await 0", "start 0:a 1; open 1; await 0; await 1")
 	w.Go(100)
-	log(t, w, 0, "1 joined v7 @0", "0 led v7 @0")
-	log(t, w, 1, "2 none v0 @0", "0 joined v7 @0")
+	log(t, w, 0, "2 joined v7 @0", "3 led v7 @0")
+	log(t, w, 1, "2 none v0 @0", "3 joined v7 @0")
 }
 
 // TestStartOver: into a pending slot; who was to be told there is told for nothing, be it ahead or behind (23.2, 23.3).
@@ -119,7 +134,7 @@ func TestStartOver(t *testing.T) {
 		w.Go(100)
 		// b's load waits at the gate 2.
 		tick := map[string]string{"1": "2", "2": "1"}[first]
-		log(t, w, 0, "1 led v8 @"+tick, "3 none v0 @"+tick)
+		log(t, w, 0, "2 led v8 @"+tick, "3 none v0 @"+tick)
 		ends := map[string]string{"1": " v7 a", "2": " v8 b"}
 		since(t, w, 6, "1 end r"+first+ends[first], "1 tell c1 n"+first+" r"+first+ends[first],
 			"2 end r"+second+ends[second], "2 tell c1 n"+second+" r"+second+ends[second])
@@ -130,7 +145,7 @@ func TestStartOver(t *testing.T) {
 func TestStartOverTold(t *testing.T) {
 	w := play(t, keeping, "0:a gate 1 add 7; 0:b add 8", "call 0:b; start 0:a 4; start 0:b 4; open 1; sleep 1; await 4; await 4")
 	w.Go(100)
-	log(t, w, 0, "0 led v8 @0", "2 hit v8 @0", "6 none v0 @1")
+	log(t, w, 0, "0 led v8 @0", "5 hit v8 @0", "6 none v0 @1")
 }
 
 // TestStartFull: into a full slot; what was there is gone (23.2, 23.3).
@@ -140,7 +155,7 @@ func TestStartFull(t *testing.T) {
 	waiting(t, w, 0, 3)
 	log(t, w, 0, "0 led v7 @0")
 	w.Go(100)
-	log(t, w, 0, "0 led v7 @0", "2 led v8 @2", "5 hit v7 @2", "7 none v0 @2")
+	log(t, w, 0, "0 led v7 @0", "3 led v8 @2", "6 hit v7 @2", "7 none v0 @2")
 }
 
 // TestAwaitEmpty: there is nothing, however often, and the client goes on (23.3).
@@ -170,9 +185,9 @@ func TestAwaitPending(t *testing.T) {
 	awake(t, w, 0)
 	free(t, w, 0, false)
 	free(t, w, 1, true)
-	log(t, w, 0, "0 led v7 @3")
+	log(t, w, 0, "1 led v7 @3")
 	finish(t, w, 2)
-	log(t, w, 0, "0 led v7 @3", "2 none v0 @3", "3 none v0 @3")
+	log(t, w, 0, "1 led v7 @3", "2 none v0 @3", "3 none v0 @3")
 }
 
 // TestAwaitAtTheEnd: who awaits at its end has ended when it is told, and not ahead of that (23.3).
@@ -202,8 +217,8 @@ func TestStartAtTheEnd(t *testing.T) {
 func TestSlotsApart(t *testing.T) {
 	w := play(t, plainly, "0:a gate 1 add 7; 0:b gate 2 add 8", "start 0:a 1; await 0; await 1", "start 0:b 0; await 1; await 0", "sleep 1; open 2; sleep 1; open 1")
 	w.Go(100)
-	log(t, w, 0, "1 none v0 @0", "0 led v7 @2")
-	log(t, w, 1, "1 none v0 @0", "0 led v8 @1")
+	log(t, w, 0, "1 none v0 @0", "2 led v7 @2")
+	log(t, w, 1, "1 none v0 @0", "2 led v8 @1")
 }
 
 // TestSlotsOfAll: each slot, with a run of its own, awaited from the last one on (23.3).
@@ -223,7 +238,7 @@ func TestSlotsOfAll(t *testing.T) {
 		t.Fatal(w.Log(0))
 	}
 	for i, g := range w.Log(0) {
-		if g.Outcome.Value != int64(16-i) || g.Place != 2*(15-i) || g.How != api.HowLed {
+		if g.Outcome.Value != int64(16-i) || g.Place != 32+i || g.How != api.HowLed {
 			t.Fatalf("at %d: %s", i, got(g))
 		}
 	}

@@ -6,14 +6,15 @@ import "convoy/api"
 func (w *World) stepClient(n int) {
 	m := w.clients[n]
 	do, place, _ := m.Next()
+	m.place = place
 	m.Go()
 	switch do.Op {
 	case api.DoCall:
-		w.ask(do.Key, asker{client: n, place: place, slot: noSlot})
+		w.ask(do.Key, asker{client: n, slot: noSlot})
 	case api.DoStart:
-		w.ask(do.Key, asker{client: n, place: place, slot: do.Slot})
+		w.ask(do.Key, asker{client: n, slot: do.Slot})
 	case api.DoAwait:
-		w.await(m, place, do.Slot)
+		w.await(m, do.Slot)
 	case api.DoForget:
 		w.forget(n, do.Key)
 	case api.DoCancel:
@@ -36,13 +37,13 @@ func (w *World) stepClient(n int) {
 }
 
 // await lets a client have what is in a slot, or wait for it.
-func (w *World) await(m *member, place, slot int) {
+func (w *World) await(m *member, slot int) {
 	got, is, _ := m.Take(slot)
 	switch is {
 	case api.SlotEmpty:
-		m.Had(api.Got{Place: place, At: w.Now()})
+		m.has(api.Got{At: w.Now()})
 	case api.SlotFull:
-		m.Had(got)
+		m.has(got)
 	case api.SlotPending:
 		m.waits = m.starts[slot]
 	}

@@ -93,7 +93,7 @@ func TestCancelSeveral(t *testing.T) {
 	waiting(t, w, 2, 3)
 	w.Go(100)
 	since(t, w, from+7, "1 leave c3 n3 r2 f3:0:0 b", "1 cancel r2 b", "1 abandon r2 g1 b")
-	log(t, w, 0, "3 cancel f3:0:0 @1", "2 cancel f3:0:0 @1", "1 cancel f3:0:0 @1")
+	log(t, w, 0, "3 cancel f3:0:0 @1", "4 cancel f3:0:0 @1", "5 cancel f3:0:0 @1")
 	log(t, w, 1, "1 cancel f3:0:0 @1")
 	log(t, w, 2, "1 cancel f3:0:0 @1")
 	log(t, w, 3, "1 cancel f3:0:0 @1")
@@ -124,15 +124,15 @@ func TestCancelForgotten(t *testing.T) {
 	w.Go(100)
 	since(t, w, 3, "0 forget c1 g1 a", "0 begin r2 g1 a", "0 join c1 n2 r2 h5 a", "0 send r2",
 		"0 leave c1 n1 r1 f3:0:0 a", "0 cancel r1 a", "0 leave c1 n2 r2 f3:0:0 a", "0 cancel r2 g1 a", "0 abandon r2 g2 a")
-	log(t, w, 0, "1 cancel f3:0:0 @0", "3 cancel f3:0:0 @0")
+	log(t, w, 0, "5 cancel f3:0:0 @0", "6 cancel f3:0:0 @0")
 }
 
 // TestCancelOwnStart: who started by its own token, and cancels it, has that in its slot; who awaits it is ready when it is cancelled (23.2, 23.3).
 func TestCancelOwnStart(t *testing.T) {
 	w := play(t, plainly, "0:a gate 1", "token 5; start 0:a 3; cancel 5; await 3; await 3", "token 6; start 0:a 3; await 3; token 1", "sleep 4; cancel 6")
 	w.Go(100)
-	log(t, w, 0, "1 cancel f3:0:0 @0", "4 none v0 @0")
-	log(t, w, 1, "1 cancel f3:0:0 @4")
+	log(t, w, 0, "3 cancel f3:0:0 @0", "4 none v0 @0")
+	log(t, w, 1, "2 cancel f3:0:0 @4")
 	free(t, w, 1, true)
 }
 
@@ -140,7 +140,7 @@ func TestCancelOwnStart(t *testing.T) {
 func TestCancelOverwritten(t *testing.T) {
 	w := play(t, plainly, "0:a gate 1; 0:b add 8", "token 5; start 0:a 3; token 0; start 0:b 3; await 3; cancel 5; await 3")
 	w.Go(100)
-	log(t, w, 0, "3 led v8 @0", "6 none v0 @0")
+	log(t, w, 0, "4 led v8 @0", "6 none v0 @0")
 	since(t, w, 8, "0 leave c1 n1 r1 f3:0:0 a", "0 cancel r1 a", "0 abandon r1 g1 a")
 }
 
@@ -293,7 +293,7 @@ func TestToken(t *testing.T) {
 	turns(t, w, 1)
 	awake(t, w, 1, 0)
 	w.Go(100)
-	log(t, w, 0, "0 led v7 @0", "2 cancel f3:0:0 @0", "4 joined v7 @0", "6 cancel f3:0:0 @0", "8 joined v7 @0")
+	log(t, w, 0, "12 led v7 @0", "13 cancel f3:0:0 @0", "14 joined v7 @0", "15 cancel f3:0:0 @0", "16 joined v7 @0")
 }
 
 // TestLongProgram: as many things to do as there may be, each of them once (23.2).

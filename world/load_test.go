@@ -32,7 +32,7 @@ func TestRecipesGathered(t *testing.T) {
 	w := play(t, gathering(4, 5), "0:a add 1; 0:a add 2; 0:a add 3; 0:b add 9",
 		"token 5; start 0:a 0; cancel 5; token 0; start 0:a 1; start 0:b 2; forget 0:a; start 0:a 3; await 0; await 1; await 2; await 3; call 0:a")
 	w.Go(100)
-	log(t, w, 0, "1 cancel f3:0:0 @0", "4 led v2 @0", "5 led v9 @0", "7 led v3 @0", "12 led v3 @5")
+	log(t, w, 0, "8 cancel f3:0:0 @0", "9 led v2 @0", "10 led v9 @0", "11 led v3 @0", "12 led v3 @5")
 	loads(t, w, "1 [1 2 3 4] ended", "2 [5] ended")
 }
 
@@ -179,7 +179,7 @@ func TestLoadAtGate(t *testing.T) {
 	loads(t, w, "2 [1 2 3] gate")
 	w.Go(100)
 	loads(t, w, "2 [1 2 3] ended")
-	log(t, w, 0, "0 led v1 @3")
+	log(t, w, 0, "3 led v1 @3")
 	free(t, w, 0, true)
 }
 
@@ -208,7 +208,7 @@ func TestLoadPanics(t *testing.T) {
 	since(t, w, 10, "0 end r1 f2:-4:2 a", "0 tell c1 n1 r1 f2:-4:2 a", "0 keep r1 f2:-4:2 a",
 		"0 end r2 f2:-4:2 b", "0 tell c2 n2 r2 f2:-4:2 b", "0 tell c1 n3 r2 f2:-4:2 b", "0 keep r2 f2:-4:2 b",
 		"0 end r3 f2:-4:2 c", "0 tell c1 n4 r3 f2:-4:2 c", "0 keep r3 f2:-4:2 c", "0 join c1 n5 h1 f2:-4:2 c")
-	log(t, w, 0, "0 led f2:-4:2 @0", "1 joined f2:-4:2 @0", "2 led f2:-4:2 @0", "6 hit f2:-4:2 @0")
+	log(t, w, 0, "3 led f2:-4:2 @0", "4 joined f2:-4:2 @0", "5 led f2:-4:2 @0", "6 hit f2:-4:2 @0")
 	log(t, w, 1, "0 led f2:-4:2 @0")
 }
 
@@ -231,8 +231,8 @@ func TestLoadEndOrder(t *testing.T) {
 	awake(t, w, 1, 3, 0, 2)
 	log(t, w, 4)
 	w.Go(100)
-	log(t, w, 4, "1 joined v0 @6")
-	log(t, w, 2, "1 joined v1 @6")
+	log(t, w, 4, "4 joined v0 @6")
+	log(t, w, 2, "2 joined v1 @6")
 	if w.Now() != 7 {
 		t.Fatal(w.Now())
 	}
@@ -244,7 +244,7 @@ func TestSkipped(t *testing.T) {
 	w.Go(100)
 	since(t, w, 12, "1 leave c1 n3 r3 f3:0:0 c", "1 cancel r3 c", "1 abandon r3 g1 c",
 		"1 end r1 f5:0:1 a", "1 end r2 v2 b", "1 tell c1 n2 r2 v2 b", "1 end r3 f5:0:3 c")
-	log(t, w, 0, "4 led v2 @1")
+	log(t, w, 0, "10 led v2 @1")
 }
 
 // TestTokensOfRuns: each run has a token of its own: in one load, and in several at one time (23.2).

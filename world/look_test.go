@@ -23,7 +23,7 @@ func TestWaits(t *testing.T) {
 	w.Go(100)
 	free(t, w, 0, true)
 	free(t, w, 1, true)
-	log(t, w, 0, "1 led v0 @1", "0 led v0 @2", "5 joined v0 @3")
+	log(t, w, 0, "3 led v0 @1", "4 led v0 @2", "5 joined v0 @3")
 }
 
 // TestLoads: all that were sent stay, with how they stand, in the order in which they were sent (23.3).

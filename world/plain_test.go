@@ -193,9 +193,11 @@ func (p *plain) stepClient(n int) {
 	case api.DoAwait:
 		switch s := m.slots[do.Slot]; {
 		case s.full:
+			s.got.Place = place
 			m.log, m.slots[do.Slot] = append(m.log, s.got), plainSlot{}
 		case s.caller > 0:
 			m.waits = s.caller
+			p.callers[s.caller-1].place = place
 		default:
 			m.log = append(m.log, api.Got{Place: place, At: p.now})
 		}
